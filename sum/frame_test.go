@@ -6,6 +6,7 @@ import (
 	"testing"
 
 	"indenture/api"
+	"indenture/internal/noise"
 	"indenture/pack"
 	"indenture/sum"
 )
@@ -41,7 +42,7 @@ func framed(b []byte) []byte {
 func contents() [][]byte {
 	l := samples()
 	for _, n := range []int{247, 248, 249, 255, 256, 257, api.MaxRecord - 1, api.MaxRecord} {
-		l = append(l, noise(uint32(n), n))
+		l = append(l, noise.Bytes(uint32(n), n))
 	}
 	return append(l, sum.Frame([]byte("a frame in a frame")))
 }
@@ -104,7 +105,7 @@ func TestOpenTooShort(t *testing.T) {
 func TestFramedIsOpened(t *testing.T) {
 	for _, b := range contents() {
 		f := sum.Frame(b)
-		for _, tail := range [][]byte{nil, {0}, {255}, f, make([]byte, 40), noise(9, 9000)} {
+		for _, tail := range [][]byte{nil, {0}, {255}, f, make([]byte, 40), noise.Bytes(9, 9000)} {
 			isFrame(t, "with bytes behind", slices.Concat(f, tail), b, len(f))
 		}
 	}
@@ -113,7 +114,7 @@ func TestFramedIsOpened(t *testing.T) {
 func TestTurnedBit(t *testing.T) {
 	for _, b := range contents() {
 		f := sum.Frame(b)
-		for _, tail := range [][]byte{nil, bytes.Repeat([]byte{255}, 20), noise(8, 300)} {
+		for _, tail := range [][]byte{nil, bytes.Repeat([]byte{255}, 20), noise.Bytes(8, 300)} {
 			turned := slices.Concat(f, tail)
 			for bit := range 8 * len(f) {
 				if bit > 2000 && bit < 8*len(f)-200 && bit%97 > 0 { // a long frame's middle is gone over in great steps, for time's sake

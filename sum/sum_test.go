@@ -7,6 +7,7 @@ import (
 	"strconv"
 	"testing"
 
+	"indenture/internal/noise"
 	"indenture/sum"
 )
 
@@ -44,16 +45,6 @@ func plain(b []byte) uint32 {
 	return s
 }
 
-// noise: n bytes that look like none in particular, of a seed's making.
-func noise(seed uint32, n int) []byte {
-	b := make([]byte, n)
-	for i := range b {
-		seed = seed*1664525 + 1013904223
-		b[i] = byte(seed >> 24)
-	}
-	return b
-}
-
 // samples: bytes at the edges, of one bit each, and of many lengths.
 func samples() [][]byte {
 	l := [][]byte{nil, {}, {0}, {255}, make([]byte, 32), bytes.Repeat([]byte{255}, 32), []byte("123456789")}
@@ -63,9 +54,9 @@ func samples() [][]byte {
 		l = append(l, b)
 	}
 	for n := range 40 {
-		l = append(l, noise(uint32(n), n))
+		l = append(l, noise.Bytes(uint32(n), n))
 	}
-	return append(l, noise(1, 1000), noise(2, 8192))
+	return append(l, noise.Bytes(1, 1000), noise.Bytes(2, 8192))
 }
 
 // edgeSums: sums that bytes may have, if enough stand behind.
@@ -107,12 +98,12 @@ func TestOfIsTheRemainder(t *testing.T) {
 }
 
 func TestOfLong(t *testing.T) {
-	b := noise(3, 1<<20)
+	b := noise.Bytes(3, 1<<20)
 	isSum(t, "a mebibyte", sum.Of(b), crc32.Checksum(b, crc32.MakeTable(crc32.Castagnoli)))
 }
 
 func TestAddGoesOn(t *testing.T) {
-	whole := noise(4, 300)
+	whole := noise.Bytes(4, 300)
 	for at := range len(whole) + 1 {
 		isSum(t, "Add", sum.Add(sum.Of(whole[:at]), whole[at:]), plain(whole))
 	}
@@ -131,7 +122,7 @@ func TestJoinLaysSideBySide(t *testing.T) {
 			isSum(t, "Join", sum.Join(sum.Of(a), sum.Of(b), len(b)), whole)
 		}
 	}
-	long := noise(5, 1<<20+3)
+	long := noise.Bytes(5, 1<<20+3)
 	for _, n := range []int{0, 1, 255, 256, 257, 65535, 65536, 1 << 20, len(long)} {
 		at := len(long) - n
 		isSum(t, "Join long", sum.Join(sum.Of(long[:at]), sum.Of(long[at:]), n), sum.Of(long))
